@@ -25,6 +25,9 @@ func (d *Doc) Text() string { return d.text }
 // Tokens gives its tokens.
 func (d *Doc) Tokens() []api.Token { return slices.Clone(d.tokens) }
 
+// Ahead tells how many of its tokens, from the first one on, stay if something is replaced from a place on.
+func (d *Doc) Ahead(from int) int { return len(endingBy(d.tokens, max(from, 0)-reach)) }
+
 // Replace gives another one, and how many tokens were looked at anew.
 func (d *Doc) Replace(s api.Span) (*Doc, int, error) {
 	if s.From < 0 || s.From > s.To || s.To > len(d.text) {
@@ -32,7 +35,7 @@ func (d *Doc) Replace(s api.Span) (*Doc, int, error) {
 	}
 	text := d.text[:s.From] + s.Text + d.text[s.To:]
 	grown := len(text) - len(d.text)
-	ahead := endingBy(d.tokens, s.From-reach)
+	ahead := d.tokens[:d.Ahead(s.From)]
 	r := readFrom(text, endOf(ahead))
 	anew, behind := r.until(beginningAt(d.tokens, s.To), grown)
 	tokens := slices.Concat(ahead, anew, behind)

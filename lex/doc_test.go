@@ -68,6 +68,19 @@ func TestK3Anew(t *testing.T) {
 	}
 }
 
+// K3: how many tokens stay ahead: those that end four bytes or more ahead.
+func TestK3Ahead(t *testing.T) {
+	d := New("ab+ \"\u00e9\";") // they end at 2, 3, 4, 8 and 9
+	for from, want := range map[int]int{0: 0, 5: 0, 6: 1, 7: 2, 8: 3, 9: 3, 11: 3, 12: 4, 13: 5, 14: 5, -1: 0, -5: 0, math.MinInt: 0, math.MinInt + 3: 0, math.MaxInt: 5} {
+		if got := d.Ahead(from); got != want {
+			t.Errorf("Ahead(%d): %d, want %d", from, got, want)
+		}
+	}
+	if got := New("").Ahead(9); got != 0 {
+		t.Errorf("Ahead in an empty text: %d", got)
+	}
+}
+
 // K3: pieces put in next to and within tokens, and taken out there, at every place of some texts.
 func TestK3EveryPlace(t *testing.T) {
 	texts := []string{

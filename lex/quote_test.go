@@ -1,6 +1,7 @@
 package lex
 
 import (
+	"slices"
 	"strings"
 	"testing"
 	"unicode/utf8"
@@ -24,6 +25,24 @@ func TestK2Word(t *testing.T) {
 		if Word(s) {
 			t.Errorf("%q is no word", s)
 		}
+	}
+}
+
+// K2: the table that is filled at the start has the words that Word knows, in the chapter's order, and nobody can write into it.
+func TestK2Words(t *testing.T) {
+	want := strings.Fields("use as pub def let in if then else fun true false")
+	table := Words()
+	if !slices.Equal(table[:], want) {
+		t.Errorf("Words: %q, want %q", table, want)
+	}
+	for i, w := range table {
+		if k := Tokens(w); !Word(w) || len(k) != 1 || k[0].Kind != api.TWord {
+			t.Errorf("%q of the table is no word: %v", w, k)
+		}
+		table[i] = "x"
+	}
+	if Words() == table || Word("x") {
+		t.Error("the table was written into")
 	}
 }
 

@@ -55,7 +55,7 @@ name:
 		r.pass()
 		goto name
 	}
-	if Word(r.text[begin:r.at]) {
+	if isWord(r.text[begin:r.at]) {
 		return api.TWord
 	}
 	return api.TName
