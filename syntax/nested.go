@@ -1,0 +1,86 @@
+package syntax
+
+import "amanuensis/api"
+
+// expression passes one, which may be missing.
+func (in *row) expression() Expression {
+	kind := in.kids[0].Kind
+	kids := in.enter()
+	switch kind {
+	case api.NMissing:
+		return &Missing{}
+	case api.NLet:
+		return kids.let()
+	case api.NIf:
+		e := kids.expressions()
+		return &If{e[0], e[1], e[2]}
+	case api.NFun:
+		return kids.fun()
+	case api.NBinary:
+		return kids.binary()
+	case api.NCall:
+		return kids.call()
+	case api.NList:
+		return &List{kids.expressions()}
+	case api.NGroup:
+		return &Group{kids.expressions()[0]}
+	case api.NVar:
+		return &Var{kids.name()}
+	case api.NHole:
+		return kids.hole()
+	default:
+		return &Literal{kind, kids.pass().Text}
+	}
+}
+
+// expressions passes all that is left, and gives the expressions among it.
+func (in *row) expressions() []Expression {
+	var all []Expression
+	for in.more() {
+		if isExpression(in.kids[0]) {
+			all = append(all, in.expression())
+		} else {
+			in.leave()
+		}
+	}
+	return all
+}
+
+func (in *row) let() *Let {
+	in.pass() // let
+	l := &Let{Name: in.name()}
+	in.pass() // =
+	l.Value = in.expression()
+	in.pass() // in
+	l.Body = in.expression()
+	return l
+}
+
+func (in *row) fun() *Fun {
+	in.pass() // fun
+	f := &Fun{Params: in.params()}
+	in.pass() // =>
+	f.Body = in.expression()
+	return f
+}
+
+func (in *row) binary() *Binary {
+	b := &Binary{Left: in.expression()}
+	b.Sign = in.pass().Text
+	b.Right = in.expression()
+	return b
+}
+
+func (in *row) call() *Call {
+	c := &Call{Called: in.expression()}
+	args := in.enter()
+	c.Args = args.expressions()
+	return c
+}
+
+func (in *row) hole() *Hole {
+	in.more()
+	h := &Hole{*in.at}
+	in.leave() // ?
+	return h
+}

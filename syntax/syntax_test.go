@@ -1,0 +1,208 @@
+package syntax
+
+import (
+	"fmt"
+	"reflect"
+	"strings"
+	"testing"
+
+	"amanuensis/api"
+	"amanuensis/tree"
+)
+
+// name as text: with where it begins, or `_`, if it is missing.
+func showName(n Name) string {
+	if n.Missing() {
+		return "_"
+	}
+	return fmt.Sprint(n.Text, "@", n.At)
+}
+
+func showParams(p *Params) string {
+	if p == nil {
+		return "none"
+	}
+	var all []string
+	for _, n := range p.Names {
+		all = append(all, showName(n))
+	}
+	return "(" + strings.Join(all, " ") + ")"
+}
+
+func showAll(all []Expression) string {
+	var out []string
+	for _, e := range all {
+		out = append(out, show(e))
+	}
+	return strings.Join(out, " ")
+}
+
+func show(e Expression) string {
+	switch e := e.(type) {
+	case *Literal:
+		return fmt.Sprint(e.Kind, "`", e.Text, "`")
+	case *Hole:
+		return fmt.Sprint("?@", e.At)
+	case *Missing:
+		return "_"
+	case *Var:
+		return showName(e.Name)
+	case *Let:
+		return "(let " + showName(e.Name) + " " + show(e.Value) + " " + show(e.Body) + ")"
+	case *If:
+		return "(if " + showAll([]Expression{e.Test, e.Then, e.Else}) + ")"
+	case *Fun:
+		return "(fun " + showParams(e.Params) + " " + show(e.Body) + ")"
+	case *Binary:
+		return "(" + e.Sign + " " + show(e.Left) + " " + show(e.Right) + ")"
+	case *Call:
+		return "(call " + showAll(append([]Expression{e.Called}, e.Args...)) + ")"
+	case *List:
+		return "[" + showAll(e.All) + "]"
+	case *Group:
+		return "<" + show(e.Inner) + ">"
+	}
+	return fmt.Sprintf("%T?", e)
+}
+
+func showItems(text string) string {
+	var all []string
+	for _, item := range Read(tree.New(text)) {
+		switch i := item.(type) {
+		case *Use:
+			all = append(all, fmt.Sprint("use ", i.Pub, " ", showName(i.Module), " ", showName(i.Item), " ", i.As, " ", showName(i.Alias)))
+		case *Def:
+			all = append(all, fmt.Sprint("def ", i.Pub, " ", showName(i.Name), " ", showParams(i.Params), " ", show(i.Body)))
+		}
+	}
+	return strings.Join(all, "; ")
+}
+
+func TestItems(t *testing.T) {
+	for _, c := range [][2]string{
+		{"", ""},
+		{" -- so", ""},
+		{"1 2; )", ""},
+		{"use b.x;", "use false b@4 x@6 false _"},
+		{"pub use b.x as y;", "use true b@8 x@10 true y@15"},
+		{" {- -} pub\nuse b . x --\nas {--} y", "use true b@15 x@19 true y@32"},
+		{"use", "use false _ _ false _"},
+		{"use x;", "use false x@4 _ false _"},
+		{"use .x;", "use false _ x@5 false _"},
+		{"use b x;", "use false b@4 x@6 false _"},
+		{"use b. as y;", "use false b@4 _ true y@10"},
+		{"use b.x as;", "use false b@4 x@6 true _"},
+		{"use as y;", "use false _ _ true y@7"},
+		{"pub", "def true _ none _"},
+		{"pub x = 1;", "def true x@4 none 15`1`"},
+		{"def f = 1;", "def false f@4 none 15`1`"},
+		{"def f() = 1;", "def false f@4 () 15`1`"},
+		{"def f(x, y) = 1;", "def false f@4 (x@6 y@9) 15`1`"},
+		{"def f(x, , y) = 1;", "def false f@4 (x@6 _ y@11) 15`1`"},
+		{"def (", "def false _ (_) _"},
+		{"def f(x y) = 1; z use b.c;", "def false f@4 (x@6) y@8; use false b@22 c@24 false _"},
+		{"1; def f = 2; é? ; def g = 3;", "def false f@7 none 15`2`; def false g@24 none 15`3`"},
+		{"def name = name; def expression(name) = ;", "def false name@4 none name@11; def false expression@21 (name@32) _"},
+	} {
+		if got := showItems(c[0]); got != c[1] {
+			t.Errorf("%q: got %s, want %s", c[0], got, c[1])
+		}
+	}
+}
+
+func TestExpressions(t *testing.T) {
+	for _, c := range [][2]string{
+		{"12", "15`12`"},
+		{` "a\n"`, "16`\"a\\n\"`"},
+		{"{--} true", "17`true`"},
+		{"false", "17`false`"},
+		{" ?", "?@5"},
+		{"--\n\nx", "x@8"},
+		{"", "_"},
+		{"(1)", "<15`1`>"},
+		{"(", "<_>"},
+		{"[]", "[]"},
+		{"[1, , x", "[15`1` _ x@10]"},
+		{"f()", "(call f@4)"},
+		{"f(x)(1, y)", "(call (call f@4 x@6) 15`1` y@12)"},
+		{"f(", "(call f@4 _)"},
+		{"1+x*2", "(+ 15`1` (* x@6 15`2`))"},
+		{"1-2 ++ 3==a<", "(== (++ (- 15`1` 15`2`) 15`3`) a@14)"},
+		{"x==", "(== x@4 _)"},
+		{"if x then y else z", "(if x@7 y@14 z@21)"},
+		{"if then y else", "(if _ y@12 _)"},
+		{"if", "(if _ _ _)"},
+		{"let x = 1 in x", "(let x@8 15`1` x@17)"},
+		{"let = 1 in x", "(let _ 15`1` x@15)"},
+		{"let", "(let _ _ _)"},
+		{"fun(x) => x", "(fun (x@8) x@14)"},
+		{"fun => x", "(fun (_) x@11)"},
+		{"fun() => fun(y, y) => [y, (if 1 then 2 else let z = ? in z)(y)]", "(fun () (fun (y@17 y@20) [y@27 (call <(if 15`1` 15`2` (let z@52 ?@56 z@61))> y@64)]))"},
+	} {
+		text := "def=" + c[0]
+		if got, want := showItems(text), "def false _ none "+c[1]; got != want {
+			t.Errorf("%q: got %s, want %s", text, got, want)
+		}
+	}
+}
+
+func TestTooDeep(t *testing.T) {
+	text := "def=" + strings.Repeat("(", api.MaxNest+1) + "x"
+	want := strings.Repeat("<", api.MaxNest) + "<_" + strings.Repeat(">", api.MaxNest+1)
+	if got := showItems(text); got != "def false _ none "+want {
+		t.Errorf("got %s", got)
+	}
+}
+
+func TestCalled(t *testing.T) {
+	items := Read(tree.New("use b.x; pub use b.x as y; use b.x as; def f=1; pub def(y)=2;"))
+	want := []string{"x@6 false", "y@24 true", "_ false", "f@43 false", "_ true"}
+	for i, item := range items {
+		if got := fmt.Sprint(showName(item.Called()), " ", item.Shown()); got != want[i] {
+			t.Errorf("item %d: got %s, want %s", i, got, want[i])
+		}
+	}
+	if len(items) != len(want) {
+		t.Errorf("%d items", len(items))
+	}
+}
+
+func TestParts(t *testing.T) {
+	a, b, c := &Var{Name{"a", 1}}, &Hole{2}, &Literal{api.NNum, "3"}
+	params := &Params{[]Name{{"x", 0}}}
+	for _, e := range []struct {
+		of   Expression
+		want []Expression
+	}{
+		{a, nil}, {b, nil}, {c, nil}, {&Missing{}, nil},
+		{&Let{Name{}, a, b}, []Expression{a, b}},
+		{&If{a, b, c}, []Expression{a, b, c}},
+		{&Fun{params, a}, []Expression{a}},
+		{&Binary{a, "+", b}, []Expression{a, b}},
+		{&Call{a, []Expression{b, c}}, []Expression{a, b, c}},
+		{&List{[]Expression{a, c}}, []Expression{a, c}},
+		{&List{}, nil},
+		{&Group{c}, []Expression{c}},
+	} {
+		if got := e.of.Parts(); len(got) != len(e.want) || len(got) > 0 && !reflect.DeepEqual(got, e.want) {
+			t.Errorf("%s: got %s, want %s", show(e.of), showAll(got), showAll(e.want))
+		}
+	}
+}
+
+func TestPartsAreFresh(t *testing.T) {
+	l := &List{append(make([]Expression, 0, 4), &Missing{})}
+	l.Parts()[0] = &Hole{}
+	if show(l) != "[_]" {
+		t.Errorf("the list has become %s", show(l))
+	}
+}
+
+// A place behind all that can stand ahead of it: a name that is not counted right would move it.
+func TestPlacesGoOn(t *testing.T) {
+	ahead := "1;use b.x as y;{--}use;pub use c . d ;def f(x,,y)=let a=if 1 then ? else fun(z)=>[z,(z),z+1](f(x),)in a;def=\"é\";)"
+	items := Read(tree.New(ahead + " def end = 1;"))
+	if got, want := items[len(items)-1].Called(), (Name{"end", len(ahead) + 5}); got != want {
+		t.Errorf("got %v, want %v", got, want)
+	}
+}
