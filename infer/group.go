@@ -1,0 +1,56 @@
+package infer
+
+import "math"
+
+// groups gives the groups of defs (Y2), each behind those to which its defs lead.
+func groups(defs []*def) [][]int {
+	g := &grouping{defs: defs, number: make([]int, len(defs)), least: make([]int, len(defs))}
+	for d := range defs {
+		if g.number[d] == 0 {
+			g.visit(d)
+		}
+	}
+	return g.groups
+}
+
+// grouping goes from def to def, and remembers those on the way whose group is not yet known.
+// A group is complete when all that its first def leads to has been seen, and nothing of it led further ahead on the way.
+type grouping struct {
+	defs   []*def
+	seen   int
+	number []int // as which one each def was seen; 0: not yet; gone: its group is known
+	least  []int // the least number on the way to which each def leads
+	way    []int
+	groups [][]int
+}
+
+// gone is a number that is below none.
+const gone = math.MaxInt
+
+func (g *grouping) visit(d int) {
+	g.seen++
+	g.number[d], g.least[d] = g.seen, g.seen
+	ahead := len(g.way)
+	g.way = append(g.way, d)
+	for _, to := range g.defs[d].leads {
+		if g.number[to] == 0 {
+			g.visit(to)
+			g.least[d] = min(g.least[d], g.least[to])
+		} else {
+			g.least[d] = min(g.least[d], g.number[to])
+		}
+	}
+	if g.least[d] == g.number[d] {
+		g.close(ahead)
+	}
+}
+
+// close makes a group of the last defs on the way.
+func (g *grouping) close(ahead int) {
+	group := append([]int(nil), g.way[ahead:]...)
+	g.way = g.way[:ahead]
+	for _, d := range group {
+		g.number[d] = gone
+	}
+	g.groups = append(g.groups, group)
+}
