@@ -417,3 +417,13 @@ func TestMany(t *testing.T) {
 		t.Fatalf("Invert of many spans: %v", err)
 	}
 }
+
+func TestE2Length(t *testing.T) {
+	text := "abcdefgh"
+	for _, e := range [][]api.Span{nil, {{From: 0, To: 8}}, {{From: 2, To: 2, Text: "xyz"}}, {{From: 1, To: 4, Text: "x"}, {From: 4, To: 4, Text: "yy"}, {From: 7, To: 8}}} {
+		out, err := Apply(text, e)
+		if got := Length(len(text), e); err != nil || got != len(out) {
+			t.Errorf("%v: %d, want %d; %v", e, got, len(out), err)
+		}
+	}
+}

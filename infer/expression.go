@@ -61,7 +61,7 @@ func (f *finder) variable(v *syntax.Var) *shape {
 	if b, ok := f.known[to]; ok {
 		return f.renew(b)
 	}
-	whole := f.defs[f.named[to]].whole
+	whole := f.Defs[f.named[to]].Found.whole
 	if whole == nil {
 		return f.open()
 	}

@@ -5,27 +5,41 @@ import (
 	"amanuensis/syntax"
 )
 
-// find finds the types of a group, if it has types; those of the defs to which it leads have been found.
-func (w *workspace) find(group []int) {
-	f := &finder{workspace: w, known: map[place]bound{}}
+// Find finds the types of a group: what there is of each of its defs. What the defs are to which it leads has to be kept ahead of that.
+func (w *Workspace) Find(group []int) []Found {
+	all := make([]Found, len(group))
+	f := &finder{Workspace: w, known: map[place]bound{}}
 	if !f.holds(group) {
-		return
+		return all
 	}
 	holes := f.holes
-	for _, i := range group {
-		d := w.defs[i]
-		d.whole = f.known[place{d.file, d.Name.At}].shape
-		d.text = text(d.whole)
-		for j := range d.holes {
-			d.holes[j].text = text(holes[j])
-		}
+	for i, n := range group {
+		d := w.Defs[n]
+		all[i] = foundOf(f.known[place{d.File, d.Name.At}].shape, holes[:len(d.holes)])
 		holes = holes[len(d.holes):]
+	}
+	return all
+}
+
+// foundOf gives what there is of a def that has a type.
+func foundOf(whole *shape, holes []*shape) Found {
+	f := Found{Text: text(whole), whole: whole}
+	for _, h := range holes {
+		f.holes = append(f.holes, text(h))
+	}
+	return f
+}
+
+// Keep says what was found of a group, now or when its defs, and those to which it leads, were the same.
+func (w *Workspace) Keep(group []int, found []Found) {
+	for i, n := range group {
+		w.Defs[n].Found = found[i]
 	}
 }
 
 // finder finds the types of one group.
 type finder struct {
-	*workspace
+	*Workspace
 	known map[place]bound // what is named so far: defs of the group, parameters, lets
 	level int             // in the values of how many lets it is
 	file  int             // where the def stands that it is in
@@ -49,10 +63,10 @@ func (f *finder) holds(group []int) (ok bool) {
 		}
 	}()
 	for _, i := range group {
-		f.name(f.defs[i])
+		f.begin(f.Defs[i])
 	}
 	for _, i := range group {
-		f.def(f.defs[i])
+		f.def(f.Defs[i])
 	}
 	for _, t := range f.all {
 		weigh(t)
@@ -60,14 +74,14 @@ func (f *finder) holds(group []int) (ok bool) {
 	return true
 }
 
-// name gives a def a type of which nothing is known yet.
-func (f *finder) name(d *def) {
-	f.known[place{d.file, d.Name.At}] = bound{f.open(), 0}
+// begin gives a def a type of which nothing is known yet.
+func (f *finder) begin(d *Def) {
+	f.known[place{d.File, d.Name.At}] = bound{f.open(), 0}
 }
 
-func (f *finder) def(d *def) {
-	f.file = d.file
-	own := f.known[place{d.file, d.Name.At}].shape
+func (f *finder) def(d *Def) {
+	f.file = d.File
+	own := f.known[place{d.File, d.Name.At}].shape
 	if d.Params == nil {
 		unite(own, f.expression(d.Body))
 	} else {

@@ -1,11 +1,14 @@
 package infer
 
-import "math"
+import (
+	"math"
+	"slices"
+)
 
-// groups gives the groups of defs (Y2), each behind those to which its defs lead.
-func groups(defs []*def) [][]int {
-	g := &grouping{defs: defs, number: make([]int, len(defs)), least: make([]int, len(defs))}
-	for d := range defs {
+// Groups gives the groups of defs (Y2), each behind those to which its defs lead; the defs of each in their order.
+func (w *Workspace) Groups() [][]int {
+	g := &grouping{defs: w.Defs, number: make([]int, len(w.Defs)), least: make([]int, len(w.Defs))}
+	for d := range w.Defs {
 		if g.number[d] == 0 {
 			g.visit(d)
 		}
@@ -16,7 +19,7 @@ func groups(defs []*def) [][]int {
 // grouping goes from def to def, and remembers those on the way whose group is not yet known.
 // A group is complete when all that its first def leads to has been seen, and nothing of it led further ahead on the way.
 type grouping struct {
-	defs   []*def
+	defs   []*Def
 	seen   int
 	number []int // as which one each def was seen; 0: not yet; gone: its group is known
 	least  []int // the least number on the way to which each def leads
@@ -47,7 +50,8 @@ func (g *grouping) visit(d int) {
 
 // close makes a group of the last defs on the way.
 func (g *grouping) close(ahead int) {
-	group := append([]int(nil), g.way[ahead:]...)
+	group := slices.Clone(g.way[ahead:])
+	slices.Sort(group)
 	g.way = g.way[:ahead]
 	for _, d := range group {
 		g.number[d] = gone

@@ -3,69 +3,86 @@ package infer
 import (
 	"amanuensis/api"
 	"amanuensis/syntax"
-	"amanuensis/tree"
 )
 
 // place is where something is named: in which file, and behind how many bytes.
 type place struct{ file, at int }
 
-// workspace is what is known of all files.
-type workspace struct {
+// Workspace is what is known of the defs of all files.
+type Workspace struct {
+	Defs   []*Def          // file by file, from the left
 	stands map[place]place // what each name in an expression stands for; what stands for nothing is not there
-	defs   []*def          // file by file, from the left
 	named  map[place]int   // which def is named where
 }
 
-// def is an NDef that has a name, and what becomes known of it.
-type def struct {
+// Def is an NDef that has a name, and what is known of it.
+type Def struct {
 	*syntax.Def
-	file  int
-	leads []int  // to which defs the names in its expression lead
-	holes []hole // from the left
-	whole *shape // its type; nil, if it has none
-	text  string
+	File  int
+	Found Found
+	leads []int // to which defs the names in its expression lead
+	holes []int // where each `?` in it stands, from the left
 }
 
-// hole is a `?` in a def.
-type hole struct {
-	at   int
-	text string
+// Found is what was found of a def; of one that has no type nothing is.
+type Found struct {
+	Text  string // its type
+	whole *shape
+	holes []string // the types of each `?` in it
 }
 
-// read finds the defs of all files, and where they lead to.
-func read(files []api.File, names []api.Use) *workspace {
-	w := &workspace{stands: map[place]place{}, named: map[place]int{}}
+// Typed tells whether the def has a type.
+func (f Found) Typed() bool { return f.whole != nil }
+
+// hole gives the type of a `?`.
+func (f Found) hole(i int) string {
+	if !f.Typed() {
+		return ""
+	}
+	return f.holes[i]
+}
+
+// Read finds the defs of all files, and where they lead to, by what their names stand for.
+func Read(files []syntax.File, names []api.Use) *Workspace {
+	w := &Workspace{stands: map[place]place{}, named: map[place]int{}}
 	for _, n := range names {
 		if n.As == api.UVar && n.To >= 0 {
 			w.stands[place{n.File, n.At}] = place{n.ToFile, n.To}
 		}
 	}
 	for i, f := range files {
-		w.readFile(i, f.Text)
+		w.name(i, f.Items)
 	}
-	for _, d := range w.defs {
+	for _, d := range w.Defs {
 		w.look(d, d.Body)
 	}
 	return w
 }
 
-func (w *workspace) readFile(file int, text string) {
-	for _, item := range syntax.Read(tree.New(text)) {
+// name finds the defs of a file.
+func (w *Workspace) name(file int, items []syntax.Item) {
+	for _, item := range items {
 		d, ok := item.(*syntax.Def)
 		if ok && !d.Name.Missing() {
-			w.named[place{file, d.Name.At}] = len(w.defs)
-			w.defs = append(w.defs, &def{Def: d, file: file})
+			w.named[place{file, d.Name.At}] = len(w.Defs)
+			w.Defs = append(w.Defs, &Def{Def: d, File: file})
 		}
 	}
 }
 
+// Named tells which def is named somewhere.
+func (w *Workspace) Named(file, at int) (int, bool) {
+	d, ok := w.named[place{file, at}]
+	return d, ok
+}
+
 // look finds the holes of an expression of a def, and the defs to which its names lead.
-func (w *workspace) look(d *def, e syntax.Expression) {
+func (w *Workspace) look(d *Def, e syntax.Expression) {
 	switch e := e.(type) {
 	case *syntax.Hole:
-		d.holes = append(d.holes, hole{at: e.At})
+		d.holes = append(d.holes, e.At)
 	case *syntax.Var:
-		to, ok := w.stands[place{d.file, e.Name.At}]
+		to, ok := w.stands[place{d.File, e.Name.At}]
 		if other, isDef := w.named[to]; ok && isDef {
 			d.leads = append(d.leads, other)
 		}

@@ -191,3 +191,15 @@ func TestTokensFresh(t *testing.T) {
 		t.Error("two lists share their memory")
 	}
 }
+
+// The first token of a text is what Tokens has first.
+func TestK1First(t *testing.T) {
+	for _, text := range []string{"x", "x1é y", "  x", "-- so\nx", "{- {- -}", "\"a\" b", "\xff\xff", "=>=", "1234567890123456789", "def"} {
+		if got, want := First(text), Tokens(text)[0]; got != want {
+			t.Errorf("%q: %v, want %v", text, got, want)
+		}
+	}
+	if got := First(""); got != (api.Token{Kind: api.TEnd}) {
+		t.Errorf("of nothing: %v", got)
+	}
+}

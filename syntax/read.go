@@ -5,6 +5,15 @@ import (
 	"amanuensis/tree"
 )
 
+// Files reads the files of a workspace.
+func Files(files []api.File) []File {
+	var all []File
+	for _, f := range files {
+		all = append(all, File{f.Name, Read(tree.New(f.Text))})
+	}
+	return all
+}
+
 // Read gives the items of a tree, from the left; an NJunk is none.
 func Read(t *tree.Tree) []Item {
 	in := row{new(int), t.Root().Kids}
@@ -97,7 +106,9 @@ func (in *row) use() *Use {
 
 func (in *row) def() *Def {
 	kids := in.enter()
-	d := &Def{Pub: kids.has("pub")}
+	kids.more()
+	d := &Def{From: *in.at}
+	d.Pub = kids.has("pub")
 	kids.pass() // def
 	d.Name = kids.name()
 	if kids.more() && kids.kids[0].Kind == api.NParams {
@@ -106,6 +117,7 @@ func (in *row) def() *Def {
 	kids.pass() // =
 	d.Body = kids.expression()
 	kids.pass() // ;
+	d.To = *in.at
 	return d
 }
 

@@ -10,6 +10,12 @@ type Name struct {
 // Missing tells whether the name is none.
 func (n Name) Missing() bool { return n.Text == "" }
 
+// File is a file of a workspace, by what its tree says.
+type File struct {
+	Name  string
+	Items []Item
+}
+
 // Item is a *Use or a *Def.
 type Item interface {
 	// Called gives the name by which the item is known (N2).
@@ -40,10 +46,11 @@ func (u *Use) Shown() bool { return u.Pub }
 
 // Def is an NDef.
 type Def struct {
-	Pub    bool
-	Name   Name
-	Params *Params // nil: it has no NParams
-	Body   Expression
+	Pub      bool
+	Name     Name
+	Params   *Params // nil: it has no NParams
+	Body     Expression
+	From, To int // where its first token begins that is no space and no remark, and where its last one ends
 }
 
 // Called gives its name.

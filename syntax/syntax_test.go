@@ -206,3 +206,36 @@ func TestPlacesGoOn(t *testing.T) {
 		t.Errorf("got %v, want %v", got, want)
 	}
 }
+
+// Where a def stands: from its first token that is no space and no remark to its last one.
+func TestWhereDefsStand(t *testing.T) {
+	for _, c := range []struct{ text, want string }{
+		{"def x = 1;", "def x = 1;"},
+		{" -- so\n def x = 1 ; ", "def x = 1 ;"},
+		{"{--}pub  def x = 1; def y = 2;", "pub  def x = 1;|def y = 2;"},
+		{"é pub{--} x = 1  use a.b; def", "pub{--} x = 1|def"},
+		{"def f(é) = (é -- so\n y", "def f(é) = (é"},
+		{"pub", "pub"},
+		{"use a.b; x;", ""},
+	} {
+		var got []string
+		for _, item := range Read(tree.New(c.text)) {
+			if d, ok := item.(*Def); ok {
+				got = append(got, c.text[d.From:d.To])
+			}
+		}
+		if strings.Join(got, "|") != c.want {
+			t.Errorf("%q: %q, want %q", c.text, got, c.want)
+		}
+	}
+}
+
+func TestFiles(t *testing.T) {
+	files := Files([]api.File{{Name: "a", Text: "def x = 1;"}, {Name: "b"}, {Name: "c", Text: "use a.x; def y = x;"}})
+	if len(files) != 3 || files[0].Name != "a" || files[1].Name != "b" || files[2].Name != "c" {
+		t.Fatalf("%v", files)
+	}
+	if len(files[0].Items) != 1 || len(files[1].Items) != 0 || len(files[2].Items) != 2 || files[2].Items[1].Called() != (Name{"y", 13}) {
+		t.Errorf("%v", files)
+	}
+}
