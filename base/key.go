@@ -6,6 +6,7 @@ import (
 
 	"amanuensis/api"
 	"amanuensis/infer"
+	"amanuensis/scope"
 	"amanuensis/syntax"
 )
 
@@ -28,7 +29,7 @@ func (a *asking) key(group []int) string {
 		text := a.texts[d.File][d.From:d.To]
 		out = told(out, 'd', a.labels[i], len(text))
 		out = append(out, text...)
-		for _, n := range within(a.names, d.File, d.From, d.To) {
+		for _, n := range scope.Within(a.names, d.File, d.From, d.To) {
 			if n.As == api.UVar {
 				out = a.target(out, group, d, n)
 			}

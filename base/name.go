@@ -1,10 +1,7 @@
 package base
 
 import (
-	"sort"
-
 	"amanuensis/api"
-	"amanuensis/lex"
 	"amanuensis/scope"
 )
 
@@ -16,34 +13,12 @@ func (b *Base) named() []api.Use {
 	return b.names
 }
 
-// upTo gives the names that begin at a place, or ahead of it.
-func upTo(names []api.Use, file, at int) []api.Use {
-	return names[:sort.Search(len(names), func(i int) bool {
-		n := names[i]
-		return n.File > file || n.File == file && n.At > at
-	})]
-}
-
-// within gives the names that begin in a piece of a file.
-func within(names []api.Use, file, from, to int) []api.Use {
-	ahead := upTo(names, file, from-1)
-	return upTo(names, file, to-1)[len(ahead):]
-}
-
-// size tells how many bytes a name has.
-func (b *Base) size(n api.Use) int { return lex.First(b.trees[n.File].Text()[n.At:]).Len }
-
 // Where gives the name at a place.
 func (b *Base) Where(file, at int) (api.Use, bool) {
-	some := upTo(b.named(), file, at)
-	if len(some) == 0 {
+	if !b.has(file) {
 		return api.Use{}, false
 	}
-	last := some[len(some)-1]
-	if last.File != file || last.At+b.size(last) < at {
-		return api.Use{}, false
-	}
-	return last, true
+	return scope.At(b.named(), file, b.trees[file].Text(), at)
 }
 
 // Uses gives all names that stand for the same.

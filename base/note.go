@@ -5,6 +5,7 @@ import (
 	"slices"
 
 	"amanuensis/api"
+	"amanuensis/scope"
 )
 
 // Notes tells what is wrong in a file.
@@ -20,9 +21,10 @@ func (b *Base) Notes(file int) ([]api.Note, error) {
 // wrongNames tells the names of a file with which something is wrong.
 func (b *Base) wrongNames(file int) []api.Note {
 	var all []api.Note
+	text := b.trees[file].Text()
 	for _, n := range b.named() {
 		if n.File == file && n.Err != api.OK {
-			all = append(all, api.Note{At: n.At, To: n.At + b.size(n), Err: n.Err})
+			all = append(all, api.Note{At: n.At, To: n.At + len(scope.Text(text, n.At)), Err: n.Err})
 		}
 	}
 	return all

@@ -209,7 +209,7 @@ func (r *slowRun) kind(e syntax.Expression, in *slowBlock) slowType {
 	case *syntax.Hole:
 		t := r.fresh()
 		if r.first {
-			r.holes[place{r.file, e.At}] = t
+			r.holes[place{r.file, e.From}] = t
 		}
 		return t
 	case *syntax.Missing:
@@ -389,7 +389,7 @@ func (s *slow) tell() (out []api.Typed, ok bool) {
 		out = append(out, api.Typed{File: d.at.file, At: d.at.at, Type: s.texts[d.at]})
 		for _, e := range inner(d.Body) {
 			if h, ok := e.(*syntax.Hole); ok {
-				out = append(out, api.Typed{File: d.at.file, At: h.At, Hole: true, Type: s.texts[place{d.at.file, h.At}]})
+				out = append(out, api.Typed{File: d.at.file, At: h.From, Hole: true, Type: s.texts[place{d.at.file, h.From}]})
 			}
 		}
 	}

@@ -80,7 +80,7 @@ func (w *Workspace) Named(file, at int) (int, bool) {
 func (w *Workspace) look(d *Def, e syntax.Expression) {
 	switch e := e.(type) {
 	case *syntax.Hole:
-		d.holes = append(d.holes, e.At)
+		d.holes = append(d.holes, e.From)
 	case *syntax.Var:
 		to, ok := w.stands[place{d.File, e.Name.At}]
 		if other, isDef := w.named[to]; ok && isDef {

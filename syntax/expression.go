@@ -1,43 +1,69 @@
 package syntax
 
-// Expression is a pointer to one of the types below.
+// Expression is a pointer to one of the types below that have an Extent.
 type Expression interface {
 	// Parts gives the expressions that stand right in it, from the left.
 	Parts() []Expression
+	// Place tells where it stands.
+	Place() Extent
+	// stand says where it stands, which is known when all of it has been passed.
+	stand(Extent)
 }
+
+// Extent is where an expression stands: from where its first token begins that is no space and no remark to where its last one ends.
+// What is missing has no token: it stands nowhere, from 0 to 0.
+type Extent struct {
+	From, To int
+	Gaps     bool // whether in it something is missing, or stands a `?`
+}
+
+// Place gives it.
+func (x *Extent) Place() Extent { return *x }
+
+func (x *Extent) stand(at Extent) { *x = at }
 
 // Literal is an NNum, NStr or NBool: which of these, and its token.
 type Literal struct {
+	Extent
 	Kind int
 	Text string
 }
 
-// Hole is an NHole: where its `?` stands.
-type Hole struct{ At int }
+// Hole is an NHole.
+type Hole struct{ Extent }
 
 // Missing is an NMissing where an expression should stand.
-type Missing struct{}
+type Missing struct{ Extent }
 
 // Var is an NVar.
-type Var struct{ Name Name }
+type Var struct {
+	Extent
+	Name Name
+}
 
 // Let is an NLet.
 type Let struct {
+	Extent
 	Name        Name
 	Value, Body Expression
 }
 
 // If is an NIf.
-type If struct{ Test, Then, Else Expression }
+type If struct {
+	Extent
+	Test, Then, Else Expression
+}
 
 // Fun is an NFun.
 type Fun struct {
+	Extent
 	Params *Params
 	Body   Expression
 }
 
 // Binary is an NBinary.
 type Binary struct {
+	Extent
 	Left  Expression
 	Sign  string
 	Right Expression
@@ -45,15 +71,22 @@ type Binary struct {
 
 // Call is an NCall, with what its NArgs has.
 type Call struct {
+	Extent
 	Called Expression
 	Args   []Expression
 }
 
 // List is an NList.
-type List struct{ All []Expression }
+type List struct {
+	Extent
+	All []Expression
+}
 
 // Group is an NGroup.
-type Group struct{ Inner Expression }
+type Group struct {
+	Extent
+	Inner Expression
+}
 
 // Parts of what is only a token are none.
 func (*Literal) Parts() []Expression { return nil }

@@ -4,8 +4,15 @@ import "amanuensis/api"
 
 // expression passes one, which may be missing.
 func (in *row) expression() Expression {
+	tokens, gaps := len(in.begins), in.gaps
 	kind := in.kids[0].Kind
-	kids := in.enter()
+	e := in.enter().whole(kind)
+	e.stand(in.since(tokens, gaps))
+	return e
+}
+
+// whole passes all kids of an expression of a kind.
+func (kids row) whole(kind int) Expression {
 	switch kind {
 	case api.NMissing:
 		return &Missing{}
@@ -13,7 +20,7 @@ func (in *row) expression() Expression {
 		return kids.let()
 	case api.NIf:
 		e := kids.expressions()
-		return &If{e[0], e[1], e[2]}
+		return &If{Test: e[0], Then: e[1], Else: e[2]}
 	case api.NFun:
 		return kids.fun()
 	case api.NBinary:
@@ -21,15 +28,16 @@ func (in *row) expression() Expression {
 	case api.NCall:
 		return kids.call()
 	case api.NList:
-		return &List{kids.expressions()}
+		return &List{All: kids.expressions()}
 	case api.NGroup:
-		return &Group{kids.expressions()[0]}
+		return &Group{Inner: kids.expressions()[0]}
 	case api.NVar:
-		return &Var{kids.name()}
+		return &Var{Name: kids.name()}
 	case api.NHole:
-		return kids.hole()
+		kids.pass() // ?
+		return &Hole{}
 	default:
-		return &Literal{kind, kids.pass().Text}
+		return &Literal{Kind: kind, Text: kids.pass().Text}
 	}
 }
 
@@ -76,11 +84,4 @@ func (in *row) call() *Call {
 	args := in.enter()
 	c.Args = args.expressions()
 	return c
-}
-
-func (in *row) hole() *Hole {
-	in.more()
-	h := &Hole{*in.at}
-	in.leave() // ?
-	return h
 }

@@ -16,7 +16,7 @@ func Files(files []api.File) []File {
 
 // Read gives the items of a tree, from the left; an NJunk is none.
 func Read(t *tree.Tree) []Item {
-	in := row{new(int), t.Root().Kids}
+	in := row{&passed{}, t.Root().Kids}
 	var items []Item
 	for in.more() {
 		switch in.kids[0].Kind {
@@ -32,10 +32,18 @@ func Read(t *tree.Tree) []Item {
 }
 
 // row is what is left of the kids of a node.
-// A tree does not say where its leaves stand: so all rows of it count together.
 type row struct {
-	at   *int // how many bytes stand ahead
+	*passed
 	kids []api.Node
+}
+
+// passed is what stands ahead of what is left.
+// A tree does not say where its leaves stand: so all rows of it count together.
+type passed struct {
+	at     int   // how many bytes
+	begins []int // where each token begins that is no space and no remark
+	end    int   // where the last of these ends
+	gaps   int   // how much is missing, and how many `?` stand there
 }
 
 // more passes spaces and remarks, and tells whether something is left.
@@ -50,10 +58,31 @@ func (in *row) more() bool {
 func (in *row) leave() api.Node {
 	kid := in.kids[0]
 	in.kids = in.kids[1:]
+	if kid.Kind == api.NMissing || kid.Kind == api.NHole {
+		in.gaps++
+	}
 	if kid.Kind == api.NLeaf {
-		*in.at += len(kid.Text)
+		in.count(kid)
 	}
 	return kid
+}
+
+// count counts a token.
+func (p *passed) count(token api.Node) {
+	begin := p.at
+	p.at += len(token.Text)
+	if !isQuiet(token) {
+		p.begins = append(p.begins, begin)
+		p.end = p.at
+	}
+}
+
+// since tells where what has been passed stands since so many tokens, and gaps, had been.
+func (p *passed) since(tokens, gaps int) Extent {
+	if len(p.begins) == tokens {
+		return Extent{Gaps: p.gaps > gaps}
+	}
+	return Extent{p.begins[tokens], p.end, p.gaps > gaps}
 }
 
 // pass goes on behind a token, or what is missing, and gives what it is.
@@ -63,7 +92,7 @@ func (in *row) pass() api.Node {
 }
 
 // enter goes on with the kids of the first kid, which is a node.
-func (in *row) enter() row { return row{in.at, in.leave().Kids} }
+func (in *row) enter() row { return row{in.passed, in.leave().Kids} }
 
 // has passes a word, if it is there.
 func (in *row) has(word string) bool {
@@ -77,7 +106,7 @@ func (in *row) has(word string) bool {
 // name passes a name, which may be missing.
 func (in *row) name() Name {
 	in.more()
-	at := *in.at
+	at := in.at
 	if n := in.leave(); n.Kind == api.NLeaf {
 		return Name{n.Text, at}
 	}
@@ -107,7 +136,7 @@ func (in *row) use() *Use {
 func (in *row) def() *Def {
 	kids := in.enter()
 	kids.more()
-	d := &Def{From: *in.at}
+	d := &Def{From: in.at}
 	d.Pub = kids.has("pub")
 	kids.pass() // def
 	d.Name = kids.name()
@@ -117,7 +146,7 @@ func (in *row) def() *Def {
 	kids.pass() // =
 	d.Body = kids.expression()
 	kids.pass() // ;
-	d.To = *in.at
+	d.To = in.at
 	return d
 }
 

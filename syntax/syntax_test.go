@@ -42,7 +42,7 @@ func show(e Expression) string {
 	case *Literal:
 		return fmt.Sprint(e.Kind, "`", e.Text, "`")
 	case *Hole:
-		return fmt.Sprint("?@", e.At)
+		return fmt.Sprint("?@", e.From)
 	case *Missing:
 		return "_"
 	case *Var:
@@ -168,21 +168,21 @@ func TestCalled(t *testing.T) {
 }
 
 func TestParts(t *testing.T) {
-	a, b, c := &Var{Name{"a", 1}}, &Hole{2}, &Literal{api.NNum, "3"}
+	a, b, c := &Var{Name: Name{"a", 1}}, &Hole{}, &Literal{Kind: api.NNum, Text: "3"}
 	params := &Params{[]Name{{"x", 0}}}
 	for _, e := range []struct {
 		of   Expression
 		want []Expression
 	}{
 		{a, nil}, {b, nil}, {c, nil}, {&Missing{}, nil},
-		{&Let{Name{}, a, b}, []Expression{a, b}},
-		{&If{a, b, c}, []Expression{a, b, c}},
-		{&Fun{params, a}, []Expression{a}},
-		{&Binary{a, "+", b}, []Expression{a, b}},
-		{&Call{a, []Expression{b, c}}, []Expression{a, b, c}},
-		{&List{[]Expression{a, c}}, []Expression{a, c}},
+		{&Let{Value: a, Body: b}, []Expression{a, b}},
+		{&If{Test: a, Then: b, Else: c}, []Expression{a, b, c}},
+		{&Fun{Params: params, Body: a}, []Expression{a}},
+		{&Binary{Left: a, Sign: "+", Right: b}, []Expression{a, b}},
+		{&Call{Called: a, Args: []Expression{b, c}}, []Expression{a, b, c}},
+		{&List{All: []Expression{a, c}}, []Expression{a, c}},
 		{&List{}, nil},
-		{&Group{c}, []Expression{c}},
+		{&Group{Inner: c}, []Expression{c}},
 	} {
 		if got := e.of.Parts(); len(got) != len(e.want) || len(got) > 0 && !reflect.DeepEqual(got, e.want) {
 			t.Errorf("%s: got %s, want %s", show(e.of), showAll(got), showAll(e.want))
@@ -191,7 +191,7 @@ func TestParts(t *testing.T) {
 }
 
 func TestPartsAreFresh(t *testing.T) {
-	l := &List{append(make([]Expression, 0, 4), &Missing{})}
+	l := &List{All: append(make([]Expression, 0, 4), &Missing{})}
 	l.Parts()[0] = &Hole{}
 	if show(l) != "[_]" {
 		t.Errorf("the list has become %s", show(l))
@@ -226,6 +226,55 @@ func TestWhereDefsStand(t *testing.T) {
 		}
 		if strings.Join(got, "|") != c.want {
 			t.Errorf("%q: %q, want %q", c.text, got, c.want)
+		}
+	}
+}
+
+// pieces gives the texts of an expression and of all in it, from the outermost on, with a `!` ahead where something is missing in it, or a `?` stands.
+func pieces(text string, e Expression) []string {
+	x := e.Place()
+	piece := text[x.From:x.To]
+	if x.Gaps {
+		piece = "!" + piece
+	}
+	all := []string{piece}
+	for _, p := range e.Parts() {
+		all = append(all, pieces(text, p)...)
+	}
+	return all
+}
+
+// Where expressions stand: from the first token that is no space and no remark to the last one, and whether they have gaps.
+func TestWhereExpressionsStand(t *testing.T) {
+	for _, c := range []struct{ text, want string }{
+		{" 12 ", "12"},
+		{"{--}\"é\" -- so\n", `"é"`},
+		{"", "!"},
+		{" ? ", "!?"},
+		{" a + {--}b * c ;", "a + {--}b * c|a|b * c|b|c"},
+		{" 1 - 2 - 3 == 4", "1 - 2 - 3 == 4|1 - 2 - 3|1 - 2|1|2|3|4"},
+		{" + 1;", "!+ 1|!|1"},
+		{" 1 + ;", "!1 +|1|!"},
+		{" f ( x , (y) ) ( ) ", "f ( x , (y) ) ( )|f ( x , (y) )|f|x|(y)|y"},
+		{" f(1, ;", "!f(1,|f|1|!"},
+		{" [ 1 , [ ] ", "![ 1 , [ ]|1|[ ]"},
+		{" let x -- so\n= 1 in x ", "let x -- so\n= 1 in x|1|x"},
+		{" let = 1 in x ", "!let = 1 in x|1|x"},
+		{" let x 1 x ", "!let x 1 x|1|x"},
+		{" if a then b else ( fun ( x , ) => ? ) ", "!if a then b else ( fun ( x , ) => ? )|a|b|!( fun ( x , ) => ? )|!fun ( x , ) => ?|!?"},
+		{" [ (a + ) , fun(x) => x ]", "![ (a + ) , fun(x) => x ]|!(a + )|!a +|a|!|fun(x) => x|x"},
+		{" if", "!if|!|!|!"},
+	} {
+		for _, ahead := range []string{"def=", "1; use a.b; pub def f(x, ) {--} =", "def = ? + ;\ndef f ="} {
+			text := ahead + c.text
+			items := Read(tree.New(text))
+			d, ok := items[len(items)-1].(*Def)
+			if !ok {
+				t.Fatalf("%q: no def", text)
+			}
+			if got := strings.Join(pieces(text, d.Body), "|"); got != c.want {
+				t.Errorf("%q: %s, want %s", text, got, c.want)
+			}
 		}
 	}
 }
