@@ -11,9 +11,9 @@ import (
 
 // piece is an expression that becomes a def of its own.
 type piece struct {
-	file   int
-	def    *syntax.Def
-	around []syntax.Expression // those in which it stands, from the outermost on
+	file int
+	def  *syntax.Def
+	way  []syntax.Expression // those in which it stands, from the outermost on, and it
 	syntax.Expression
 }
 
@@ -26,8 +26,7 @@ func (w *workspace) piece(file, from, to int) (piece, bool) {
 	if len(way) == 0 {
 		return piece{}, false
 	}
-	last := len(way) - 1
-	p := piece{file, def, way[:last], way[last]}
+	p := piece{file, def, way, way[len(way)-1]}
 	x := p.Place()
 	return p, x.From == from && x.To == to
 }
@@ -54,25 +53,7 @@ func (w *workspace) hasItem(file int, name string) bool {
 
 // isAround tells whether an NParams or a `let` around the expression names something.
 func (p piece) isAround(name string) bool {
-	if hasName(p.def.Params, name) {
-		return true
-	}
-	inner := p.Expression
-	for _, e := range slices.Backward(p.around) {
-		if l, ok := e.(*syntax.Let); ok && l.Body == inner && l.Name.Text == name {
-			return true
-		}
-		if f, ok := e.(*syntax.Fun); ok && hasName(f.Params, name) {
-			return true
-		}
-		inner = e
-	}
-	return false
-}
-
-// hasName tells whether an NParams, if there is one, has a name.
-func hasName(p *syntax.Params, name string) bool {
-	return p != nil && slices.ContainsFunc(p.Names, func(n syntax.Name) bool { return n.Text == name })
+	return slices.ContainsFunc(p.def.Around(p.way), func(n syntax.Name) bool { return n.Text == name })
 }
 
 // outer gives the names of parameters and lets that stand for what is named outside of the expression, each once.

@@ -59,26 +59,10 @@ func (w *workspace) def(file, at int) *syntax.Def {
 func (w *workspace) way(file, from, to int) (*syntax.Def, []syntax.Expression) {
 	for _, item := range w.read[file].Items {
 		if d, ok := item.(*syntax.Def); ok && d.From <= from && to <= d.To {
-			return d, inwards(d.Body, from, to)
+			return d, d.Way(from, to)
 		}
 	}
 	return nil, nil
-}
-
-// inwards goes from an expression to the part in which a piece stands whole, as long as there is one.
-func inwards(e syntax.Expression, from, to int) []syntax.Expression {
-	var way []syntax.Expression
-	for some := []syntax.Expression{e}; ; {
-		i := slices.IndexFunc(some, func(e syntax.Expression) bool {
-			x := e.Place()
-			return x.From <= from && to <= x.To
-		})
-		if i < 0 {
-			return way
-		}
-		way = append(way, some[i])
-		some = some[i].Parts()
-	}
 }
 
 // isWhole tells whether in an expression nothing is missing, and neither stands a `?`, nor a name that stands for nothing.

@@ -5,10 +5,17 @@ import (
 	"amanuensis/syntax"
 )
 
+// FindAll finds the types of all defs.
+func (w *Workspace) FindAll() {
+	for _, group := range w.Groups() {
+		w.Keep(group, w.Find(group))
+	}
+}
+
 // Find finds the types of a group: what there is of each of its defs. What the defs are to which it leads has to be kept ahead of that.
 func (w *Workspace) Find(group []int) []Found {
 	all := make([]Found, len(group))
-	f := &finder{Workspace: w, known: map[place]bound{}}
+	f := w.finder()
 	if !f.holds(group) {
 		return all
 	}
@@ -20,6 +27,9 @@ func (w *Workspace) Find(group []int) []Found {
 	}
 	return all
 }
+
+// Typed tells whether a group has types, without telling which. What the defs are to which it leads has to be kept ahead of that.
+func (w *Workspace) Typed(group []int) bool { return w.finder().holds(group) }
 
 // foundOf gives what there is of a def that has a type.
 func foundOf(whole *shape, holes []*shape) Found {
@@ -46,6 +56,8 @@ type finder struct {
 	all   []*shape        // of all expressions so far
 	holes []*shape        // of all holes so far
 }
+
+func (w *Workspace) finder() *finder { return &finder{Workspace: w, known: map[place]bound{}} }
 
 // bound is the type of what is named, and in the values of how many lets that stands.
 // The variables that belong to more lets belong to nothing around, and are new each time.

@@ -7,13 +7,20 @@ import (
 
 // Groups gives the groups of defs (Y2), each behind those to which its defs lead; the defs of each in their order.
 func (w *Workspace) Groups() [][]int {
-	g := &grouping{defs: w.Defs, number: make([]int, len(w.Defs)), least: make([]int, len(w.Defs))}
+	g := w.grouping()
 	for d := range w.Defs {
 		if g.number[d] == 0 {
 			g.visit(d)
 		}
 	}
 	return g.groups
+}
+
+// Group gives that of a def alone, which is complete when all others to which it leads are.
+func (w *Workspace) Group(d int) []int {
+	g := w.grouping()
+	g.visit(d)
+	return g.groups[len(g.groups)-1]
 }
 
 // grouping goes from def to def, and remembers those on the way whose group is not yet known.
@@ -25,6 +32,10 @@ type grouping struct {
 	least  []int // the least number on the way to which each def leads
 	way    []int
 	groups [][]int
+}
+
+func (w *Workspace) grouping() *grouping {
+	return &grouping{defs: w.Defs, number: make([]int, len(w.Defs)), least: make([]int, len(w.Defs))}
 }
 
 // gone is a number that is below none.

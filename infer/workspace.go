@@ -45,11 +45,7 @@ func (f Found) hole(i int) string {
 // Read finds the defs of all files, and where they lead to, by what their names stand for.
 func Read(files []syntax.File, names []api.Use) *Workspace {
 	w := &Workspace{stands: map[place]place{}, named: map[place]int{}}
-	for _, n := range names {
-		if n.As == api.UVar && n.To >= 0 {
-			w.stands[place{n.File, n.At}] = place{n.ToFile, n.To}
-		}
-	}
+	w.stand(names)
 	for i, f := range files {
 		w.name(i, f.Items)
 	}
@@ -57,6 +53,28 @@ func Read(files []syntax.File, names []api.Use) *Workspace {
 		w.look(d, d.Body)
 	}
 	return w
+}
+
+// stand says what names in expressions stand for.
+func (w *Workspace) stand(names []api.Use) {
+	for _, n := range names {
+		if n.As != api.UVar {
+			continue
+		}
+		if n.To >= 0 {
+			w.stands[place{n.File, n.At}] = place{n.ToFile, n.To}
+		} else {
+			delete(w.stands, place{n.File, n.At})
+		}
+	}
+}
+
+// Again says what the names in the expression of a def stand for now.
+func (w *Workspace) Again(d int, names []api.Use) {
+	w.stand(names)
+	def := w.Defs[d]
+	def.leads, def.holes = nil, nil
+	w.look(def, def.Body)
 }
 
 // name finds the defs of a file.

@@ -23,11 +23,11 @@ func (b *block) find(name string) (int, bool) {
 }
 
 // params tells the names of an NParams, if there is one, and gives the block in which its expression stands.
-func (t teller) params(p *syntax.Params, out *block) *block {
+func (t *teller) params(p *syntax.Params, out *block) *block {
 	if p == nil {
 		return out
 	}
-	b := &block{map[string]int{}, out}
+	b := &block{make(map[string]int, len(p.Names)), out}
 	for _, name := range p.Names {
 		if _, ok := b.named[name.Text]; ok {
 			t.own(name, api.UParam, api.ErrTwice)
@@ -40,7 +40,7 @@ func (t teller) params(p *syntax.Params, out *block) *block {
 }
 
 // expression tells the names in one that stands in a block.
-func (t teller) expression(e syntax.Expression, in *block) {
+func (t *teller) expression(e syntax.Expression, in *block) {
 	if v, ok := e.(*syntax.Var); ok {
 		t.variable(v.Name, in)
 	} else if l, ok := e.(*syntax.Let); ok {
@@ -54,13 +54,13 @@ func (t teller) expression(e syntax.Expression, in *block) {
 	}
 }
 
-func (t teller) let(l *syntax.Let, in *block) {
+func (t *teller) let(l *syntax.Let, in *block) {
 	t.own(l.Name, api.ULet, api.OK)
 	t.expression(l.Value, in)
 	t.expression(l.Body, &block{map[string]int{l.Name.Text: l.Name.At}, in})
 }
 
-func (t teller) variable(name syntax.Name, in *block) {
+func (t *teller) variable(name syntax.Name, in *block) {
 	if at, ok := in.find(name.Text); ok {
 		t.add(name, api.UVar, place{t.file, at}, api.OK)
 	} else if item, ok := t.files[t.file].named[name.Text]; ok {

@@ -3,9 +3,11 @@ package scope
 import (
 	"math"
 	"slices"
+	"strings"
 	"testing"
 
 	"amanuensis/api"
+	"amanuensis/syntax"
 )
 
 // Every place, and every piece, of some files: the names there are those that going through all of them finds.
@@ -52,5 +54,50 @@ func TestB3NamesAtPlaces(t *testing.T) {
 	}
 	if got := Text("def éé=x", 4); got != "éé" {
 		t.Errorf("%q", got)
+	}
+}
+
+func TestN2NamesThatAFileHas(t *testing.T) {
+	w := Open(syntax.Files(files(
+		"def x = 1; use b.y; use b.z as v; use b.x as x; use b.hidden; use q.y as m; use a.w as r; use a.r as w; use b.y as; use b. as n; def; def u(k) = let l = 1 in l; def y = 2;",
+		"", "")))
+	if got := strings.Join(w.Has(0), " "); got != "x u" {
+		t.Errorf("%s", got)
+	}
+	w = Open(syntax.Files(files(
+		"def x = 1; use b.y; use b.z as v; use b.x as x; use b.hidden; use q.y as m; use a.w as r; use a.r as w; use b.y as; use b. as n; def; def u(k) = let l = 1 in l; def y = 2;",
+		"pub def y = 1; pub use c.z; pub def x = 1; def hidden = 1; use c.z as own;",
+		"pub def z = 1;")))
+	for i, want := range []string{"x y v u", "y z x hidden own", "z"} {
+		if got := strings.Join(w.Has(i), " "); got != want {
+			t.Errorf("file %d: %s, want %s", i, got, want)
+		}
+	}
+}
+
+// Names in a def are told as they are now; all others stay.
+func TestN3NamesInADef(t *testing.T) {
+	read := syntax.Files(files("pub def y = 1;", "def x = 1; use a.y; def f(x) = [x, y, z];"))
+	w := Open(read)
+	all := w.Names()
+	d, ok := read[1].Items[2].(*syntax.Def)
+	if !ok {
+		t.Fatal("no def")
+	}
+	own := slices.DeleteFunc(slices.Clone(all), func(n api.Use) bool { return n.File != 1 || n.At <= d.Name.At })
+	if got := w.Inner(1, d); !slices.Equal(got, own) || len(got) != 4 {
+		t.Errorf("%v, want %v", got, own)
+	}
+	d.Params.Names[0].Text = "z"
+	want := slices.Clone(own)
+	want[1].To = 4   // the first def
+	want[3] = own[1] // it stands for the parameter
+	want[3].At = own[3].At
+	if got := w.Inner(1, d); !slices.Equal(got, want) {
+		t.Errorf("%v, want %v", got, want)
+	}
+	d.Params.Names[0].Text = "x"
+	if got := w.Names(); !slices.Equal(got, all) {
+		t.Errorf("%v, want %v", got, all)
 	}
 }

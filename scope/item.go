@@ -29,7 +29,7 @@ const (
 func wrong(err api.Errno) answer { return answer{known, nowhere(), err} }
 
 // item tells what an item of a file stands for.
-func (w *workspace) item(file, item int) answer {
+func (w *Workspace) item(file, item int) answer {
 	it := w.files[file].items[item]
 	if use, ok := it.(*syntax.Use); ok {
 		return w.used(file, item, use)
@@ -39,7 +39,7 @@ func (w *workspace) item(file, item int) answer {
 
 // used tells what the UItem of an NUse stands for.
 // It is looked for once: a row of uses may be long, and each of them leads through those behind it.
-func (w *workspace) used(file, item int, use *syntax.Use) answer {
+func (w *Workspace) used(file, item int, use *syntax.Use) answer {
 	found := &w.files[file].found[item]
 	if found.state == asked {
 		return wrong(api.ErrRing)
@@ -52,7 +52,7 @@ func (w *workspace) used(file, item int, use *syntax.Use) answer {
 }
 
 // look goes on from an NUse to the item that it names.
-func (w *workspace) look(file int, use *syntax.Use) answer {
+func (w *Workspace) look(file int, use *syntax.Use) answer {
 	module, ok := w.modules[use.Module.Text]
 	if !ok {
 		return wrong(api.ErrName)

@@ -7,14 +7,15 @@ import (
 
 // teller tells the names of a file, from the left.
 type teller struct {
-	*workspace
-	file int
+	*Workspace
+	file  int
+	names []api.Use // those that have been told
 }
 
-// tell tells all names of a file.
-func (w *workspace) tell(file int) {
-	t := teller{w, file}
-	for i, item := range w.files[file].items {
+// all tells all names of a file.
+func (t *teller) all(file int) {
+	t.file = file
+	for i, item := range t.files[file].items {
 		if use, ok := item.(*syntax.Use); ok {
 			t.use(i, use)
 		}
@@ -25,18 +26,18 @@ func (w *workspace) tell(file int) {
 }
 
 // add tells what a name stands for, unless it is missing.
-func (t teller) add(name syntax.Name, as int, to place, err api.Errno) {
+func (t *teller) add(name syntax.Name, as int, to place, err api.Errno) {
 	if !name.Missing() {
 		t.names = append(t.names, api.Use{File: t.file, At: name.At, As: as, ToFile: to.file, To: to.at, Err: err})
 	}
 }
 
 // own tells a name that stands for itself.
-func (t teller) own(name syntax.Name, as int, err api.Errno) {
+func (t *teller) own(name syntax.Name, as int, err api.Errno) {
 	t.add(name, as, place{t.file, name.At}, err)
 }
 
-func (t teller) use(item int, use *syntax.Use) {
+func (t *teller) use(item int, use *syntax.Use) {
 	t.module(use.Module)
 	found := t.used(t.file, item, use)
 	twice := t.twice(item)
@@ -47,7 +48,7 @@ func (t teller) use(item int, use *syntax.Use) {
 	t.add(use.Alias, api.UAlias, found.to, twice)
 }
 
-func (t teller) module(name syntax.Name) {
+func (t *teller) module(name syntax.Name) {
 	if file, ok := t.modules[name.Text]; ok {
 		t.add(name, api.UModule, place{file, -1}, api.OK)
 	} else {
@@ -55,13 +56,16 @@ func (t teller) module(name syntax.Name) {
 	}
 }
 
-func (t teller) def(item int, def *syntax.Def) {
+func (t *teller) def(item int, def *syntax.Def) {
 	t.own(def.Name, api.UDef, t.twice(item))
-	t.expression(def.Body, t.params(def.Params, nil))
+	t.inner(def)
 }
 
+// inner tells the names in the NParams and the expression of a def.
+func (t *teller) inner(def *syntax.Def) { t.expression(def.Body, t.params(def.Params, nil)) }
+
 // twice is what is wrong with the name of an item.
-func (t teller) twice(item int) api.Errno {
+func (t *teller) twice(item int) api.Errno {
 	if t.files[t.file].isTwice(item) {
 		return api.ErrTwice
 	}

@@ -288,3 +288,79 @@ func TestFiles(t *testing.T) {
 		t.Errorf("%v", files)
 	}
 }
+
+// defOf gives the first def of a text.
+func defOf(t *testing.T, text string) *Def {
+	t.Helper()
+	d, ok := Read(tree.New(text))[0].(*Def)
+	if !ok {
+		t.Fatalf("%q: no def", text)
+	}
+	return d
+}
+
+// Ways to each piece of a text: the expressions in which it stands, and the names around the last of them.
+func TestWays(t *testing.T) {
+	text := "def f(x, , y) = let a = fun(b, b) => [a, b1] in (let = 2 in c) + fun() => let d = 7 in g(d, e);"
+	for _, c := range []struct{ piece, way, around string }{
+		{"def", "", ""},
+		{"x", "", ""},
+		{"let", "*syntax.Let", "x y"},
+		{"a = fun", "*syntax.Let", "x y"},
+		{"fun(b", "*syntax.Let *syntax.Fun", "x y"},
+		{"b, b", "*syntax.Let *syntax.Fun", "x y"},
+		{"a, ", "*syntax.Let *syntax.Fun *syntax.List", "x y b b"},
+		{"b1", "*syntax.Let *syntax.Fun *syntax.List *syntax.Var", "x y b b"},
+		{"1", "*syntax.Let *syntax.Fun *syntax.List *syntax.Var", "x y b b"},
+		{"] in", "*syntax.Let", "x y"},
+		{"2", "*syntax.Let *syntax.Binary *syntax.Group *syntax.Let *syntax.Literal", "x y a"},
+		{"c", "*syntax.Let *syntax.Binary *syntax.Group *syntax.Let *syntax.Var", "x y a"},
+		{"+", "*syntax.Let *syntax.Binary", "x y a"},
+		{";", "", ""},
+	} {
+		d := defOf(t, text)
+		from := strings.Index(text, c.piece)
+		way := d.Way(from, from+len(c.piece))
+		var kinds []string
+		for _, e := range way {
+			kinds = append(kinds, fmt.Sprintf("%T", e))
+		}
+		if got := strings.Join(kinds, " "); got != c.way {
+			t.Errorf("%q: %s, want %s", c.piece, got, c.way)
+		}
+		if len(way) == 0 {
+			continue
+		}
+		var names []string
+		for _, n := range d.Around(way) {
+			names = append(names, n.Text)
+		}
+		if got := strings.Join(names, " "); got != c.around {
+			t.Errorf("%q: around it %s, want %s", c.piece, got, c.around)
+		}
+	}
+}
+
+// Who asks what is around changes nothing thereby.
+func TestAroundIsFresh(t *testing.T) {
+	d := defOf(t, "def f(, x, y) = z;")
+	d.Around(d.Way(16, 17))[0].Text = "other"
+	if got := d.Params.Names; len(got) != 3 || !got[0].Missing() || got[1].Text != "x" || got[2].Text != "y" {
+		t.Errorf("%v", got)
+	}
+}
+
+func TestParamsAt(t *testing.T) {
+	d := defOf(t, "def f(, xx, y) = z;")
+	for at := range 18 {
+		want := map[int]string{8: "xx", 12: "y"}[at]
+		got := d.Params.At(at)
+		if (got == nil) != (want == "") || got != nil && got.Text != want {
+			t.Errorf("at %d: %v, want %q", at, got, want)
+		}
+	}
+	d.Params.At(8).Text = "z"
+	if d.Params.Names[1] != (Name{"z", 8}) {
+		t.Errorf("%v", d.Params.Names)
+	}
+}
