@@ -362,7 +362,7 @@ func (d *dice) joined(tokens []string, remarks int) string {
 func TestL1ModelOfDrawnTexts(t *testing.T) {
 	laidOut := 0
 	d := dice(1)
-	for round := range 6000 {
+	for round := range 3000 {
 		w := writer{dice: &d, wide: round % 7}
 		for range 1 + d.draw(3) {
 			w.item(round % 5)
@@ -375,7 +375,7 @@ func TestL1ModelOfDrawnTexts(t *testing.T) {
 			laidOut++
 		}
 	}
-	if laidOut < 1500 {
+	if laidOut < 750 {
 		t.Errorf("only %d texts have lines that are indented", laidOut)
 	}
 }
