@@ -19,11 +19,11 @@ func firstOf(text string) measure {
 	if c == '\n' {
 		return lineBreak()
 	}
-	return measure{bytes: size, runes: 1, units: unitsOf(c)}
+	return measure{bytes: size, runes: 1, units: Units(c)}
 }
 
-// unitsOf tells how many units a character has.
-func unitsOf(c rune) int {
+// Units tells how many units a character has.
+func Units(c rune) int {
 	if c > 0xFFFF {
 		return 2
 	}
