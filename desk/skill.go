@@ -22,11 +22,17 @@ type question struct {
 	at, fuel   int
 }
 
-// names has what the skills are called, in their order.
+// names has what the skills are called, in their order; it is filled in by init.
 var names [10]string
 
-func init() {
-	names = [10]string{"notes", "types", "find", "uses", "place", "rename", "complete", "layout", "colours", "eval"}
+func init() { names = called() }
+
+// Names gives the methods that a desk can be asked for, in the chapter's order.
+func Names() [10]string { return names }
+
+// called works out what names has; all that a desk answers goes by this, and not by the variable, so that it hangs on nothing but what has come.
+func called() [10]string {
+	return [10]string{"notes", "types", "find", "uses", "place", "rename", "complete", "layout", "colours", "eval"}
 }
 
 // skills gives all that a desk can do.
@@ -43,8 +49,8 @@ func skills() []skill {
 		{do: (*workspace).colours},
 		{do: (*workspace).eval, name: true, fuel: true},
 	}
-	for i := range all {
-		all[i].called = names[i]
+	for i, name := range called() {
+		all[i].called = name
 	}
 	return all
 }
